@@ -304,6 +304,7 @@ func randomStepHost(r *rand.Rand, id int, d impl.Disk) impl.Host {
 }
 
 func TestManyStepsAsSaid(t *testing.T) {
+	t.Parallel()
 	r := rand.New(rand.NewSource(800))
 	met := map[string]int{}
 	for range 15000 {
@@ -420,6 +421,7 @@ func (w *stepWorld) wantCounted(t *testing.T) {
 }
 
 func TestWorldsOfSteps(t *testing.T) {
+	t.Parallel()
 	r := rand.New(rand.NewSource(801))
 	told, fell := 0, 0
 	for range 80 {

@@ -217,6 +217,7 @@ func staysRight(t *testing.T, what string, w impl.World, next impl.World) {
 }
 
 func TestManyActsAsSaid(t *testing.T) {
+	t.Parallel()
 	r := rand.New(rand.NewSource(900))
 	met := map[[2]int]int{}
 	for range 2500 {
@@ -252,6 +253,10 @@ type player struct {
 	pool  impl.Pool
 	falls int
 	late  int
+	// What a play may have besides: few falls, other calls, and what is asked behind each act.
+	steady bool
+	call   func(h impl.Host) impl.Op
+	watch  func(t *testing.T, w impl.World)
 }
 
 func (p *player) choose() impl.Act {
@@ -261,14 +266,14 @@ func (p *player) choose() impl.Act {
 	switch {
 	case n == 0:
 		return impl.Act{Kind: p.r.Intn(9) - 1, A: p.r.Intn(5) - 1}
-	case n == 1, h.Pc == 4 && n < 40, h.Up && !h.Busy && !h.Ready:
+	case n == 1, h.Pc == 4 && n < 40 && !p.steady, h.Up && !h.Busy && !h.Ready:
 		return impl.Act{Kind: impl.AcCrash, A: host}
 	case n < 8 && len(p.world.Disk.Pend) > 0:
 		return impl.Act{Kind: impl.AcLand + n/7, A: p.r.Intn(len(p.world.Disk.Pend))}
 	case !h.Up && n < 30:
 		return impl.Act{Kind: impl.AcRise, A: host}
 	case h.Up && !h.Busy:
-		return impl.Act{Kind: impl.AcCall, A: host, Op: p.chooseCall(h)}
+		return impl.Act{Kind: impl.AcCall, A: host, Op: p.call(h)}
 	}
 	return impl.Act{Kind: impl.AcStep, A: host}
 }
@@ -317,6 +322,9 @@ func (p *player) act(t *testing.T, a impl.Act) {
 		p.falls++
 	}
 	p.world, p.acts, p.codes = next, append(p.acts, a), append(p.codes, code)
+	if p.watch != nil {
+		p.watch(t, next)
+	}
 }
 
 // notePut keeps which calls have been put in a Journal: no other one may ever be seen.
@@ -400,10 +408,13 @@ func (p *player) goesOnWith(a impl.Act) bool {
 }
 
 func newPlayer(r *rand.Rand) *player {
-	return &player{r: r, world: impl.NewWorld(), put: map[impl.Event]bool{}, pool: impl.NewPool()}
+	p := &player{r: r, world: impl.NewWorld(), put: map[impl.Event]bool{}, pool: impl.NewPool()}
+	p.call = p.chooseCall
+	return p
 }
 
 func TestManyPlays(t *testing.T) {
+	t.Parallel()
 	r := rand.New(rand.NewSource(901))
 	seen, replies, falls, late := 0, 0, 0, 0
 	for range 40 {

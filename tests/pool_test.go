@@ -583,6 +583,7 @@ func plainModelOk(p impl.Pool) bool {
 }
 
 func TestPoolDoOfEveryCall(t *testing.T) {
+	t.Parallel()
 	numbers := []int{-1, 0, 1, 2, 3, 4}
 	for _, p := range []impl.Pool{emptyPool(), somePool()} {
 		for kind := range 14 {
@@ -651,6 +652,7 @@ func spoilModel(r *rand.Rand, p *impl.Pool) {
 }
 
 func TestModelOkOfManyPools(t *testing.T) {
+	t.Parallel()
 	r := rand.New(rand.NewSource(7))
 	var right, wrong int
 	for range 20000 {
@@ -678,6 +680,7 @@ func TestModelOkOfManyPools(t *testing.T) {
 }
 
 func TestManyCallsOneByOne(t *testing.T) {
+	t.Parallel()
 	r := rand.New(rand.NewSource(77))
 	type kindDone struct {
 		kind int
@@ -994,6 +997,7 @@ func plainAbstract(s []string) (impl.Pool, bool) {
 }
 
 func TestManyAbstractsAsSaid(t *testing.T) {
+	t.Parallel()
 	r := rand.New(rand.NewSource(707))
 	var right, wrong int
 	for range 4000 {

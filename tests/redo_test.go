@@ -512,6 +512,7 @@ func randomJournals(r *rand.Rand, lowest int, wrongs int) []string {
 }
 
 func TestManyRedosAsSaid(t *testing.T) {
+	t.Parallel()
 	r := rand.New(rand.NewSource(6))
 	spoilt := 0
 	for range 6000 {
@@ -536,6 +537,7 @@ func TestManyRedosAsSaid(t *testing.T) {
 }
 
 func TestSettleOfWhatWasSettled(t *testing.T) {
+	t.Parallel()
 	r := rand.New(rand.NewSource(66))
 	for range 4000 {
 		s := randomJournals(r, 6, 0)

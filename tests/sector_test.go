@@ -569,6 +569,7 @@ func TestShowAndReadOfWhatIsWrong(t *testing.T) {
 }
 
 func TestReadTakesNoTurnedByte(t *testing.T) {
+	t.Parallel()
 	for _, k := range sectorKinds() {
 		for _, value := range k.rights {
 			text := []byte(k.show(value))
